@@ -1,0 +1,163 @@
+package tests
+
+import (
+	"fmt"
+	"math/rand"
+	"slices"
+	"strings"
+	"testing"
+	"unsafe"
+
+	"loop.example/g00380/impl"
+)
+
+// Behind a slice's end stands memory that is the caller's too: these look at all of it.
+
+func TestP1ListOfLeavesItsItems(t *testing.T) {
+	store := []impl.Value{textOf("b"), textOf("a"), intOf(7), intOf(8)}
+	before := slices.Clone(store)
+	v, code := impl.ListOf(store[:2])
+	if code != impl.OK || !slices.Equal(store, before) {
+		t.Errorf("ListOf: %d, %v", code, store)
+	}
+	store[0] = intOf(9)
+	if again := mustList(t, before[:2]...); v != again {
+		t.Errorf("ListOf's answer hangs on its argument: %v", v)
+	}
+}
+
+func TestP1DocOfLeavesItsFields(t *testing.T) {
+	store := []impl.Field{field("b", intOf(1)), field("a", intOf(2)), field("c", intOf(3)), field("0", intOf(4))}
+	before := slices.Clone(store)
+	v, code := impl.DocOf(store[:2])
+	if code != impl.OK || !slices.Equal(store, before) {
+		t.Errorf("DocOf: %d, %v", code, store)
+	}
+	store[0] = field("x", intOf(9))
+	if again := mustDoc(t, before[:2]...); v != again {
+		t.Errorf("DocOf's answer hangs on its argument: %v", v)
+	}
+}
+
+func TestP1DecodeValueLeavesItsBytes(t *testing.T) {
+	want := mustList(t, textOf("abc"), mustDoc(t, field("a", textOf("x"))))
+	store := append(rawBytes(want), 1, 2, 3)
+	before := slices.Clone(store)
+	v, code := impl.DecodeValue(store[:len(store)-3])
+	if code != impl.OK || !slices.Equal(store, before) {
+		t.Errorf("DecodeValue: %d, %q", code, store)
+	}
+	clear(store)
+	if v != want {
+		t.Errorf("DecodeValue's answer hangs on its argument: %v", v)
+	}
+}
+
+func TestP1AnswersAreNew(t *testing.T) {
+	list := mustList(t, intOf(1), textOf("a"))
+	doc := mustDoc(t, field("a", list), field("b", list))
+	b, _ := impl.EncodeValue(doc)
+	items, _ := impl.ItemsOf(list)
+	fields, _ := impl.FieldsOf(doc)
+	clear(b[:cap(b)])
+	clear(items[:cap(items)])
+	clear(fields[:cap(fields)])
+	again, _ := impl.EncodeValue(doc)
+	moreItems, _ := impl.ItemsOf(list)
+	moreFields, _ := impl.FieldsOf(doc)
+	if string(again) != string(rawBytes(doc)) || mustList(t, moreItems...) != list || mustDoc(t, moreFields...) != doc {
+		t.Error("an answer hangs on what became of the one ahead of it")
+	}
+}
+
+// within asks whether a text's bytes lie among those of another.
+func within(part, whole string) bool {
+	if part == "" || whole == "" {
+		return false
+	}
+	p, w := uintptr(unsafe.Pointer(unsafe.StringData(part))), uintptr(unsafe.Pointer(unsafe.StringData(whole)))
+	return w <= p && p < w+uintptr(len(whole))
+}
+
+func TestP1AnswersShareNoTexts(t *testing.T) {
+	list := mustList(t, textOf("abc"), mustList(t, textOf("abc")))
+	items, _ := impl.ItemsOf(list)
+	for _, item := range items {
+		if within(item.T, list.T) {
+			t.Errorf("ItemsOf: %q is a piece of its argument", item.T)
+		}
+	}
+	doc := mustDoc(t, field("name", list), field("other", textOf("abc")))
+	fields, _ := impl.FieldsOf(doc)
+	for _, f := range fields {
+		if within(f.Name, doc.T) || within(f.Value.T, doc.T) {
+			t.Errorf("FieldsOf: %q is a piece of its argument", f.Name)
+		}
+	}
+}
+
+// told writes down all that the calls of chapters 1 and 2 answer to a value, and to its text.
+func told(v impl.Value) string {
+	var s strings.Builder
+	b, code := impl.EncodeValue(v)
+	fmt.Fprintln(&s, impl.ValueOK(v), b, code)
+	fmt.Fprintln(&s, impl.NameOK(v.T), impl.CodeOf(v.T), impl.CodeWord(v.N))
+	w, code := impl.DecodeValue([]byte(v.T))
+	fmt.Fprintf(&s, "%q %d\n", fmt.Sprint(w), code)
+	items, code := impl.ItemsOf(v)
+	fmt.Fprintf(&s, "%q %d\n", fmt.Sprint(items), code)
+	fields, code := impl.FieldsOf(v)
+	fmt.Fprintf(&s, "%q %d\n", fmt.Sprint(fields), code)
+	w, code = impl.ListOf([]impl.Value{v, v})
+	fmt.Fprintf(&s, "%q %d\n", fmt.Sprint(w), code)
+	w, code = impl.DocOf([]impl.Field{field("b", v), field(v.T, v)})
+	fmt.Fprintf(&s, "%q %d\n", fmt.Sprint(w), code)
+	n, code := impl.DepthOf(v)
+	fmt.Fprintln(&s, n, code)
+	text, code := impl.ValueText(v)
+	fmt.Fprintf(&s, "%q %d\n", text, code)
+	for _, other := range []impl.Value{v, {}, intOf(3)} {
+		k, code := impl.OrderValues(v, other)
+		fmt.Fprintln(&s, k, code)
+	}
+	return s.String()
+}
+
+func junkValues(seed int64, n int) []impl.Value {
+	r := rand.New(rand.NewSource(seed))
+	var list []impl.Value
+	for _, x := range randomNodes(seed, n) {
+		v := x.value()
+		switch r.Intn(4) {
+		case 0:
+			v.Kind = r.Intn(9) - 1
+		case 1:
+			v.N = r.Int() - r.Int()
+		case 2:
+			b := []byte(v.T + "x")
+			b[r.Intn(len(b))] = byte(r.Intn(256))
+			v.T = string(b)
+		}
+		list = append(list, v)
+	}
+	return list
+}
+
+func TestP1AlikeArgumentsAlikeAnswers(t *testing.T) {
+	list := junkValues(4, 1500)
+	for _, v := range edgeValues() {
+		list = append(list, v)
+	}
+	for _, v := range wrongValues() {
+		list = append(list, v)
+	}
+	first := make([]string, len(list))
+	for i, v := range list {
+		first[i] = told(v)
+	}
+	for i := len(list) - 1; i >= 0; i-- {
+		if again := told(impl.Value{Kind: list[i].Kind, N: list[i].N, T: strings.Clone(list[i].T)}); again != first[i] {
+			t.Errorf("the calls of %v answer\n%sand then\n%s", list[i], first[i], again)
+		}
+	}
+}
