@@ -209,27 +209,39 @@ func ListOf(items []Value) (Value, int) {
 	if len(items) > MaxBody {
 		return Value{}, ErrSize
 	}
-	var body []byte
-	depth := 0
-	for _, item := range items {
-		if !ValueOK(item) {
-			return Value{}, ErrBad
-		}
-		body = appendValue(body, item)
-		depth = max(depth, depthOf(item))
+	if slices.ContainsFunc(items, isWrong) {
+		return Value{}, ErrBad
 	}
-	return holderOf(VaList, body, depth)
+	return bounded(listWith(items))
 }
 
-// holderOf is the list or document of a body in which depth others are one in another.
-func holderOf(kind int, body []byte, depth int) (Value, int) {
-	if len(body) > MaxBody {
+func isWrong(v Value) bool { return !ValueOK(v) }
+
+func listWith(items []Value) Value {
+	var body []byte
+	for _, item := range items {
+		body = appendValue(body, item)
+	}
+	return Value{Kind: VaList, T: string(body)}
+}
+
+func docWith(sorted []Field) Value {
+	var body []byte
+	for _, f := range sorted {
+		body = appendField(body, f)
+	}
+	return Value{Kind: VaDoc, T: string(body)}
+}
+
+// bounded is v, made of right values, if it is neither too great nor too deep itself.
+func bounded(v Value) (Value, int) {
+	if len(v.T) > MaxBody {
 		return Value{}, ErrSize
 	}
-	if depth >= MaxDeep {
+	if depthOf(v) > MaxDeep {
 		return Value{}, ErrDeep
 	}
-	return Value{Kind: kind, T: string(body)}, OK
+	return v, OK
 }
 
 func ItemsOf(v Value) ([]Value, int) {
@@ -263,13 +275,7 @@ func DocOf(fields []Field) (Value, int) {
 	if code != OK {
 		return Value{}, code
 	}
-	var body []byte
-	depth := 0
-	for _, f := range sorted {
-		body = appendField(body, f)
-		depth = max(depth, depthOf(f.Value))
-	}
-	return holderOf(VaDoc, body, depth)
+	return bounded(docWith(sorted))
 }
 
 func sortedFields(fields []Field) ([]Field, int) {

@@ -96,6 +96,53 @@ func TestP1AnswersShareNoTexts(t *testing.T) {
 	}
 }
 
+func TestP1PathsShareNoTexts(t *testing.T) {
+	doc := mustDoc(t, field("a", mustList(t, textOf("abc"), mustDoc(t, field("b", textOf("abc"))))), field("c", textOf("abc")))
+	for _, path := range []string{"a", "a.b", "c"} {
+		list, code := impl.GetPath(doc, path)
+		first, c := impl.FirstPath(doc, path)
+		if code != impl.OK || c != impl.OK || len(list) == 0 {
+			t.Errorf("%s: %v, %d, %d", path, list, code, c)
+		}
+		for i, v := range append(list, first) {
+			if within(v.T, doc.T) || i > 0 && within(v.T, list[0].T) {
+				t.Errorf("%s: %q is a piece of another text", path, v.T)
+			}
+		}
+	}
+}
+
+func TestP1UpdatesShareNoTexts(t *testing.T) {
+	doc := mustDoc(t, field("a", mustList(t, textOf("abc"))), field("c", textOf("abc")))
+	for _, path := range []string{"a", "c", "d", "e.f"} {
+		for _, op := range allOps {
+			u := update(op, path, textOf(strings.Clone("abc")))
+			if op == impl.UpUnset || op == impl.UpInc {
+				u.Value = valueFor(op)
+			}
+			v, code := impl.ApplyUpdate(doc, u)
+			w, c := impl.ApplyAll(doc, []impl.Update{u})
+			if v != w || code != c || within(v.T, doc.T) || within(w.T, doc.T) || within(v.T, u.Value.T) || within(w.T, u.Value.T) {
+				t.Errorf("operation %d on %s: %v, %v shares the argument's text", op, path, v, w)
+			}
+			if s, _ := impl.UpdateText(u); within(s, u.Path) || within(s, u.Value.T) {
+				t.Errorf("UpdateText: %q shares the argument's text", s)
+			}
+		}
+	}
+}
+
+func TestP1ApplyAllLeavesItsList(t *testing.T) {
+	doc := mustDoc(t, field("a", intOf(1)))
+	store := []impl.Update{update(impl.UpInc, "a", intOf(1)), update(impl.UpPush, "l", textOf("x")), update(impl.UpSet, "b", intOf(2)), {Op: 9, Path: "z"}}
+	before := slices.Clone(store)
+	v, code := impl.ApplyAll(doc, store[:2])
+	want := mustDoc(t, field("a", intOf(2)), field("l", mustList(t, textOf("x"))))
+	if v != want || code != impl.OK || !slices.Equal(store, before) {
+		t.Errorf("ApplyAll: %v, %d, %v", v, code, store)
+	}
+}
+
 // told writes down all that the calls of chapters 1 and 2 answer to a value, and to its text.
 func told(v impl.Value) string {
 	var s strings.Builder
@@ -119,6 +166,29 @@ func told(v impl.Value) string {
 	for _, other := range []impl.Value{v, {}, intOf(3)} {
 		k, code := impl.OrderValues(v, other)
 		fmt.Fprintln(&s, k, code)
+	}
+	return s.String()
+}
+
+// toldPaths writes down all that the calls of chapter 3 answer to a value, and to its text.
+func toldPaths(v impl.Value) string {
+	var s strings.Builder
+	for _, path := range []string{"a", "b.a", "ab.id.a0", v.T} {
+		list, code := impl.GetPath(v, path)
+		fmt.Fprintf(&s, "%v %q %d\n", impl.PathOK(path), fmt.Sprint(list), code)
+		w, code := impl.FirstPath(v, path)
+		fmt.Fprintf(&s, "%q %d\n", fmt.Sprint(w), code)
+		for op := range 7 {
+			for _, other := range []impl.Value{{}, intOf(3), v} {
+				u := update(op, path, other)
+				w, code := impl.ApplyUpdate(v, u)
+				fmt.Fprintf(&s, "%v %q %d\n", impl.UpdateOK(u), fmt.Sprint(w), code)
+				w, code = impl.ApplyAll(v, []impl.Update{u, update(impl.UpPush, "b", v), u})
+				fmt.Fprintf(&s, "%q %d\n", fmt.Sprint(w), code)
+				text, code := impl.UpdateText(u)
+				fmt.Fprintf(&s, "%q %d\n", text, code)
+			}
+		}
 	}
 	return s.String()
 }
@@ -153,10 +223,11 @@ func TestP1AlikeArgumentsAlikeAnswers(t *testing.T) {
 	}
 	first := make([]string, len(list))
 	for i, v := range list {
-		first[i] = told(v)
+		first[i] = told(v) + toldPaths(v)
 	}
 	for i := len(list) - 1; i >= 0; i-- {
-		if again := told(impl.Value{Kind: list[i].Kind, N: list[i].N, T: strings.Clone(list[i].T)}); again != first[i] {
+		v := impl.Value{Kind: list[i].Kind, N: list[i].N, T: strings.Clone(list[i].T)}
+		if again := told(v) + toldPaths(v); again != first[i] {
 			t.Errorf("the calls of %v answer\n%sand then\n%s", list[i], first[i], again)
 		}
 	}
