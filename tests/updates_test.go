@@ -327,11 +327,11 @@ func TestP3ApplyAll(t *testing.T) {
 		{"what was made ahead", []impl.Update{unset, through}, "{a:{b:2}}", 0},
 		{"what was taken ahead", []impl.Update{unset, inc}, "{a:1}", 0},
 		{"a wrong one last", []impl.Update{inc, wrong}, "", impl.ErrBad},
-		{"type, then wrong", []impl.Update{inc, through, wrong}, "", impl.ErrType},
+		{"type, then wrong", []impl.Update{inc, through, wrong}, "", impl.ErrBad},
 		{"wrong, then type", []impl.Update{inc, wrong, through}, "", impl.ErrBad},
 		{"range, then type", []impl.Update{far, through}, "", impl.ErrRange},
 		{"type, then range", []impl.Update{through, far}, "", impl.ErrType},
-		{"size, then wrong", []impl.Update{big, wrong}, "", impl.ErrSize},
+		{"size, then wrong", []impl.Update{big, wrong}, "", impl.ErrBad},
 		{"deep, then size", []impl.Update{deep, big}, "", impl.ErrDeep},
 		{"size, then deep", []impl.Update{big, deep}, "", impl.ErrSize},
 		{"too great in between", []impl.Update{big, update(impl.UpUnset, "b", impl.Value{})}, "", impl.ErrSize},
@@ -349,6 +349,76 @@ func TestP3ApplyAll(t *testing.T) {
 	}
 	if v, code := impl.ApplyAll(impl.Value{}, slices.Repeat([]impl.Update{inc}, impl.MaxList+1)); v != (impl.Value{}) || code != impl.ErrLong {
 		t.Errorf("ApplyAll of too many on null: %v, %d", v, code)
+	}
+}
+
+// A wrong operation is told wherever it stands, ahead of the codes of those before it.
+func TestP3ApplyAllWrongOperations(t *testing.T) {
+	doc := mustDoc(t, field("b", intOf(impl.MaxNumber)), field("c", boolOf(0)))
+	coded := map[int]impl.Update{
+		impl.OK:       update(impl.UpSet, "a", intOf(1)),
+		impl.ErrType:  update(impl.UpInc, "b.c", intOf(1)),
+		impl.ErrRange: update(impl.UpInc, "b", intOf(1)),
+		impl.ErrSize:  update(impl.UpSet, "a", textOfLength(impl.MaxBody)),
+		impl.ErrDeep:  update(impl.UpSet, "a", nested(impl.MaxDeep, impl.VaList)),
+	}
+	wrong := []impl.Update{{}, update(6, "a", intOf(1)), update(-1, "a", intOf(1)), update(impl.UpPush, "tags.a", boolOf(5)),
+		update(impl.UpSet, "id", intOf(1)), update(impl.UpSet, "", intOf(1)), update(impl.UpSet, strings.Repeat("a", impl.MaxText+1), intOf(1)),
+		update(impl.UpUnset, "b", intOf(1)), update(impl.UpInc, "b", impl.Value{}), update(impl.UpPull, "a", nested(6, impl.VaList))}
+	for code, u := range coded {
+		for length := 1; length <= 4; length++ {
+			list := slices.Repeat([]impl.Update{u}, length)
+			if v, got := impl.ApplyAll(doc, list); got != code || code != impl.OK && v != (impl.Value{}) {
+				t.Errorf("ApplyAll of %d right operations: %v, %d, not %d", length, v, got, code)
+			}
+			for place := range list {
+				for _, w := range wrong {
+					mixed := slices.Clone(list)
+					mixed[place] = w
+					if v, got := impl.ApplyAll(doc, mixed); v != (impl.Value{}) || got != impl.ErrBad {
+						t.Errorf("ApplyAll of %d operations, a wrong one at %d, the others' code %d: %v, %d", length, place, code, v, got)
+					}
+				}
+			}
+			if v, got := impl.ApplyAll(mustList(t), list); v != (impl.Value{}) || got != impl.ErrBad {
+				t.Errorf("ApplyAll of %d operations on a list: %v, %d", length, v, got)
+			}
+		}
+	}
+}
+
+// What ApplyAll answers is what ApplyUpdate does, one after the other, if no operation is wrong.
+func TestP3ApplyAllOfRandomDocuments(t *testing.T) {
+	r := rand.New(rand.NewSource(37))
+	seen := make([]int, 20)
+	for _, x := range randomDocs(38, 4000) {
+		paths := append(x.pathsOf("", 4), randomPath(r), randomPath(r))
+		list := make([]impl.Update, 1+r.Intn(4))
+		for i := range list {
+			op, path := pick(r, allOps), pick(r, paths)
+			list[i] = update(op, path, operand(r, op, x.comesTo(path)).value())
+			if r.Intn(40) == 0 {
+				list[i] = update(impl.UpSet, path, textOfLength(impl.MaxBody))
+			}
+		}
+		want, code := x.value(), impl.OK
+		for _, u := range list {
+			if code == impl.OK {
+				want, code = impl.ApplyUpdate(want, u)
+			}
+		}
+		if slices.ContainsFunc(list, func(u impl.Update) bool { return !impl.UpdateOK(u) }) {
+			want, code = impl.Value{}, impl.ErrBad
+		}
+		if got, c := impl.ApplyAll(x.value(), list); got != want || c != code {
+			t.Errorf("ApplyAll of %v on %v: %v, %d, not %v, %d", list, x, got, c, want, code)
+		}
+		seen[code]++
+	}
+	for _, code := range []int{impl.OK, impl.ErrBad, impl.ErrType, impl.ErrRange, impl.ErrSize, impl.ErrDeep} {
+		if seen[code] < 10 {
+			t.Errorf("the code %s was asked for %d times only", impl.CodeWord(code), seen[code])
+		}
 	}
 }
 
