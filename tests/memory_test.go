@@ -143,6 +143,96 @@ func TestP1ApplyAllLeavesItsList(t *testing.T) {
 	}
 }
 
+// spareFilter is a filter whose lists have room behind their ends, and all that stands there.
+func spareFilter(t *testing.T) (impl.Filter, [][]impl.Term, []impl.Clause) {
+	x, y, z := term(impl.TeEq, "b", textOf("abc")), term(impl.TeIn, "a", mustList(t, textOf("abc"))), term(99, "", boolOf(7))
+	stores := [][]impl.Term{{x, y, x, z}, {y, y, z, z}, {x, z}}
+	clauses := []impl.Clause{{Terms: stores[0][:3]}, {Terms: stores[1][:2]}, {Terms: stores[2][:1]}, {Terms: stores[2]}}
+	return impl.Filter{Any: clauses[:3]}, stores, clauses
+}
+
+func TestP1FiltersStayAsTheyAre(t *testing.T) {
+	f, stores, clauses := spareFilter(t)
+	_, before, beforeClauses := spareFilter(t)
+	for _, doc := range []impl.Value{mustDoc(t), mustDoc(t, field("b", textOf("abc"))), {}} {
+		impl.FilterOK(f)
+		impl.Matches(f, doc)
+		impl.NormalFilter(f)
+		impl.FilterText(f)
+		impl.NormalFilter(impl.Filter{Any: clauses})
+		impl.Matches(impl.Filter{Any: clauses}, doc)
+	}
+	for i, store := range stores {
+		if !slices.Equal(store, before[i]) {
+			t.Errorf("the terms %v became %v", before[i], store)
+		}
+	}
+	if !sameFilter(impl.Filter{Any: clauses}, impl.Filter{Any: beforeClauses}) {
+		t.Errorf("the clauses %v became %v", beforeClauses, clauses)
+	}
+}
+
+func TestP1NormalFiltersAreNew(t *testing.T) {
+	f, stores, clauses := spareFilter(t)
+	first, code := impl.NormalFilter(f)
+	second, c := impl.NormalFilter(f)
+	if code != impl.OK || c != impl.OK || !sameFilter(first, second) {
+		t.Fatalf("NormalFilter: %v, %d, then %v, %d", first, code, second, c)
+	}
+	// All that one answer can reach is wiped list by list: no other list may feel it.
+	for i, part := range first.Any {
+		clear(part.Terms[:cap(part.Terms)])
+		for j := i + 1; j < len(first.Any); j++ {
+			if !slices.Equal(first.Any[j].Terms, second.Any[j].Terms) {
+				t.Errorf("the clauses %d and %d share their terms", i, j)
+			}
+		}
+	}
+	clear(first.Any[:cap(first.Any)])
+	_, before, beforeClauses := spareFilter(t)
+	for i := range stores {
+		if !slices.Equal(stores[i], before[i]) {
+			t.Errorf("NormalFilter's answer shares the terms %v", before[i])
+		}
+	}
+	if !sameFilter(impl.Filter{Any: clauses}, impl.Filter{Any: beforeClauses}) {
+		t.Error("NormalFilter's answer shares the clauses")
+	}
+	for i := range stores {
+		clear(stores[i])
+	}
+	clear(clauses)
+	fresh, _, _ := spareFilter(t)
+	if want, _ := impl.NormalFilter(fresh); !sameFilter(second, want) {
+		t.Errorf("NormalFilter's answer hangs on what became of its argument: %v, not %v", second, want)
+	}
+}
+
+func TestP1FiltersShareNoTexts(t *testing.T) {
+	f, _, _ := spareFilter(t)
+	var given, made []string
+	for _, c := range f.Any {
+		for _, x := range c.Terms {
+			given = append(given, x.Path, x.Value.T)
+		}
+	}
+	normal, _ := impl.NormalFilter(f)
+	for _, c := range normal.Any {
+		for _, x := range c.Terms {
+			made = append(made, x.Path, x.Value.T)
+		}
+	}
+	text, _ := impl.FilterText(f)
+	made = append(made, text)
+	for i, s := range made {
+		for _, other := range append(slices.Clone(given), made[:i]...) {
+			if within(s, other) || within(other, s) {
+				t.Errorf("%q shares the text %q", s, other)
+			}
+		}
+	}
+}
+
 // told writes down all that the calls of chapters 1 and 2 answer to a value, and to its text.
 func told(v impl.Value) string {
 	var s strings.Builder
@@ -193,6 +283,34 @@ func toldPaths(v impl.Value) string {
 	return s.String()
 }
 
+// toldFilters writes down all that the calls of chapter 4 answer to a value, and to its text.
+func toldFilters(v impl.Value) string {
+	var s strings.Builder
+	tell := func(f impl.Filter, docs ...impl.Value) {
+		for _, doc := range docs {
+			lets, code := impl.Matches(f, doc)
+			fmt.Fprintln(&s, impl.FilterOK(f), lets, code)
+		}
+		normal, code := impl.NormalFilter(f)
+		fmt.Fprintf(&s, "%q %d\n", fmt.Sprint(normal), code)
+		text, code := impl.FilterText(f)
+		fmt.Fprintf(&s, "%q %d\n", text, code)
+	}
+	doc := raw(impl.VaDoc, "\x01a"+string(rawBytes(v)))
+	for op := range 12 {
+		for _, path := range []string{"a", "ab.id", v.T} {
+			x, y := term(op, path, v), term(v.N, "a", v)
+			for _, z := range []impl.Term{x, y} {
+				lets, code := impl.TermMatches(z, doc)
+				fmt.Fprintln(&s, impl.TermOK(z), lets, code)
+			}
+			tell(filter(clause(x, y, x), clause(x)), v, doc)
+			tell(filter(clause(x), clause()), v, doc)
+		}
+	}
+	return s.String()
+}
+
 func junkValues(seed int64, n int) []impl.Value {
 	r := rand.New(rand.NewSource(seed))
 	var list []impl.Value
@@ -223,11 +341,11 @@ func TestP1AlikeArgumentsAlikeAnswers(t *testing.T) {
 	}
 	first := make([]string, len(list))
 	for i, v := range list {
-		first[i] = told(v) + toldPaths(v)
+		first[i] = told(v) + toldPaths(v) + toldFilters(v)
 	}
 	for i := len(list) - 1; i >= 0; i-- {
 		v := impl.Value{Kind: list[i].Kind, N: list[i].N, T: strings.Clone(list[i].T)}
-		if again := told(v) + toldPaths(v); again != first[i] {
+		if again := told(v) + toldPaths(v) + toldFilters(v); again != first[i] {
 			t.Errorf("the calls of %v answer\n%sand then\n%s", list[i], first[i], again)
 		}
 	}
