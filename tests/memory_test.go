@@ -79,6 +79,18 @@ func within(part, whole string) bool {
 	return w <= p && p < w+uintptr(len(whole))
 }
 
+// noOneShares holds texts that were made to what was given, and to one another.
+func noOneShares(t *testing.T, made, given []string) {
+	t.Helper()
+	for i, s := range made {
+		for _, other := range append(slices.Clone(given), made[:i]...) {
+			if within(s, other) || within(other, s) {
+				t.Errorf("%q shares the text %q", s, other)
+			}
+		}
+	}
+}
+
 func TestP1AnswersShareNoTexts(t *testing.T) {
 	list := mustList(t, textOf("abc"), mustList(t, textOf("abc")))
 	items, _ := impl.ItemsOf(list)
@@ -224,11 +236,57 @@ func TestP1FiltersShareNoTexts(t *testing.T) {
 	}
 	text, _ := impl.FilterText(f)
 	made = append(made, text)
-	for i, s := range made {
-		for _, other := range append(slices.Clone(given), made[:i]...) {
-			if within(s, other) || within(other, s) {
-				t.Errorf("%q shares the text %q", s, other)
-			}
+	noOneShares(t, made, given)
+}
+
+func TestP1JoinKeysLeavesItsParts(t *testing.T) {
+	store := []string{"b", "a", "c", "d"}
+	before := slices.Clone(store)
+	key, code := impl.JoinKeys(store[:2])
+	if key != "ba" || code != impl.OK || !slices.Equal(store, before) {
+		t.Errorf("JoinKeys: %q, %d, %q", key, code, store)
+	}
+}
+
+func TestP1SplitKeysAreNew(t *testing.T) {
+	joined := mustKey(t, textOf("abc"), false) + mustKey(t, intOf(1), false) + "\x01"
+	parts, _ := impl.SplitKey(joined, 3)
+	again, code := impl.SplitKey(joined, 3)
+	if code != impl.OK || len(parts) != 3 || !slices.Equal(parts, again) {
+		t.Fatalf("SplitKey: %q, then %q, %d", parts, again, code)
+	}
+	clear(parts[:cap(parts)])
+	if strings.Join(again, "") != joined {
+		t.Errorf("SplitKey's answers share a list: %q", again)
+	}
+}
+
+func TestP1KeysShareNoTexts(t *testing.T) {
+	long := strings.Repeat("abc", 20)
+	v := mustList(t, textOf(long))
+	up, down := mustKey(t, v, false), mustKey(t, v, true)
+	one, _ := impl.JoinKeys([]string{up})
+	most, _ := impl.JoinKeys([]string{"", up, ""})
+	parts, _ := impl.SplitKey(up+up, 2)
+	whole, _ := impl.SplitKey(up, 1)
+	noOneShares(t, append(append(parts, whole...), up, down, one, most), []string{v.T, long})
+}
+
+func TestP1IntervalsShareNoTexts(t *testing.T) {
+	for _, op := range allTerms {
+		x := term(op, strings.Clone("path.of.many"), termValue(op))
+		if takes(op, textOf("")) {
+			x.Value = textOf(strings.Repeat("abc", 20))
+		}
+		up, _ := impl.TermInterval(x, false)
+		down, _ := impl.TermInterval(x, true)
+		noOneShares(t, []string{up.Low, up.High, down.Low, down.High}, []string{x.Path, x.Value.T})
+	}
+	bound := strings.Repeat("abc", 20)
+	for _, a := range []impl.Interval{between(bound, bound), openWith(bound, bound), between(bound, bound+"x"), between(bound[:9], bound[9:])} {
+		for _, b := range []impl.Interval{a, between("", "z"), from(""), openWith("a", "z")} {
+			both := impl.MeetIntervals(a, b)
+			noOneShares(t, []string{both.Low, both.High}, []string{a.Low, a.High, b.Low, b.High})
 		}
 	}
 }
@@ -311,6 +369,30 @@ func toldFilters(v impl.Value) string {
 	return s.String()
 }
 
+// toldKeys writes down all that the calls of chapter 5 answer to a value, and to its text.
+func toldKeys(v impl.Value) string {
+	var s strings.Builder
+	for _, desc := range []bool{false, true} {
+		key, code := impl.KeyOf(v, desc)
+		fmt.Fprintf(&s, "%q %d\n", key, code)
+		for op := range 12 {
+			i, code := impl.TermInterval(term(op, "a", v), desc)
+			fmt.Fprintln(&s, shown(i), code, impl.IntervalHas(i, key), impl.IntervalHas(i, v.T))
+			both := impl.MeetIntervals(i, impl.Interval{Low: v.T, High: key, Open: desc})
+			fmt.Fprintln(&s, shown(both), impl.IntervalHas(both, key))
+		}
+		both, code := impl.JoinKeys([]string{key, v.T, key})
+		fmt.Fprintf(&s, "%q %d\n", both, code)
+		for _, n := range []int{v.N, 0, 1, 2, 8, 9} {
+			for _, text := range []string{v.T, key, key + v.T, both} {
+				parts, code := impl.SplitKey(text, n)
+				fmt.Fprintf(&s, "%q %d\n", parts, code)
+			}
+		}
+	}
+	return s.String()
+}
+
 func junkValues(seed int64, n int) []impl.Value {
 	r := rand.New(rand.NewSource(seed))
 	var list []impl.Value
@@ -339,13 +421,14 @@ func TestP1AlikeArgumentsAlikeAnswers(t *testing.T) {
 	for _, v := range wrongValues() {
 		list = append(list, v)
 	}
+	all := func(v impl.Value) string { return told(v) + toldPaths(v) + toldFilters(v) + toldKeys(v) }
 	first := make([]string, len(list))
 	for i, v := range list {
-		first[i] = told(v) + toldPaths(v) + toldFilters(v)
+		first[i] = all(v)
 	}
 	for i := len(list) - 1; i >= 0; i-- {
 		v := impl.Value{Kind: list[i].Kind, N: list[i].N, T: strings.Clone(list[i].T)}
-		if again := told(v) + toldPaths(v) + toldFilters(v); again != first[i] {
+		if again := all(v); again != first[i] {
 			t.Errorf("the calls of %v answer\n%sand then\n%s", list[i], first[i], again)
 		}
 	}
