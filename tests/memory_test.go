@@ -421,7 +421,9 @@ func TestP1AlikeArgumentsAlikeAnswers(t *testing.T) {
 	for _, v := range wrongValues() {
 		list = append(list, v)
 	}
-	all := func(v impl.Value) string { return told(v) + toldPaths(v) + toldFilters(v) + toldKeys(v) + toldTrees(v) }
+	all := func(v impl.Value) string {
+		return told(v) + toldPaths(v) + toldFilters(v) + toldKeys(v) + toldTrees(v) + toldIndexes(v)
+	}
 	first := make([]string, len(list))
 	for i, v := range list {
 		first[i] = all(v)
