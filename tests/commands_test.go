@@ -120,6 +120,7 @@ func wrongCommand(t *testing.T, what string, c impl.Command) {
 			t.Errorf("Do, %s: %s, %s, %d", what, shownStore(x), shownReply(r), code)
 		}
 	}
+	noReplayOf(t, what, twoNames, pastsWith(c), []int{0}, impl.ErrBad)
 }
 
 func rightCommand(t *testing.T, what string, c impl.Command) {
@@ -131,6 +132,11 @@ func rightCommand(t *testing.T, what string, c impl.Command) {
 		if x, _, code := impl.Do(s, c); !impl.StoreOK(x) || code != impl.OK {
 			t.Errorf("Do, %s: %s, %d", what, shownStore(x), code)
 		}
+	}
+	if c.Kind < impl.CoInsert || c.Kind > impl.CoCount {
+		noReplayOf(t, what, twoNames, pastsWith(c), []int{0}, impl.ErrBad)
+	} else if x, _, code := impl.Replay(twoNames, pastsWith(c), []int{0}); !impl.StoreOK(x) || x.Clock != 1 || code != impl.OK {
+		t.Errorf("Replay, %s: %s, %d", what, shownStore(x), code)
 	}
 }
 

@@ -138,6 +138,8 @@ func wrongDone(t *testing.T, what string, d impl.Done) {
 	early, late := done("0 2 ?8 =9"), done("7999 9998 ?8 =9")
 	for _, list := range [][]impl.Done{{d}, {d, late}, {early, d}, {early, d, late}} {
 		wrongDones(t, what, list, impl.ErrBad)
+		noOrderOf(t, what, list, impl.ErrBad)
+		noReplayOf(t, what, twoNames, pastsOf(list), nil, impl.ErrBad)
 	}
 	for _, list := range [][]impl.Done{nil, {early}, {early, late}, {late}, manyDones(impl.MaxDone)} {
 		if got, code := impl.Certify(list, d); len(got) != 0 || code != impl.ErrBad {
@@ -156,6 +158,9 @@ func rightDone(t *testing.T, what string, d impl.Done) {
 	if !impl.DoneOK(d) {
 		t.Errorf("DoneOK, %s: it is not right with flags", what)
 	}
+	// Who asks nothing of flags takes it so.
+	orderIs(t, []impl.Done{d}, 0)
+	replayIs(t, what, twoNames, pastsOf([]impl.Done{d}), []int{0}, true, chains(1, "", ""))
 	plain := d
 	plain.In, plain.Out = false, false
 	if got, code := impl.Certify(nil, d); !sameDones(got, []impl.Done{plain}) || code != impl.OK {

@@ -76,6 +76,8 @@ func wrongStore(t *testing.T, what string, s impl.Store) {
 	if n, code := impl.OldestSnap(s); n != 0 || code != impl.ErrBad {
 		t.Errorf("OldestSnap, %s: %d, %d", what, n, code)
 	}
+	docsAreSame(t, what, s, s, false, impl.ErrBad)
+	docsAreSame(t, what, s, fresh(), false, impl.ErrBad)
 }
 
 // rightStore holds the calls to it that a store is right.
@@ -105,6 +107,7 @@ func rightStore(t *testing.T, what string, s impl.Store) {
 			t.Errorf("DocsNow of %s, %s: %v, %d, not %v", c.Name, what, docs, code, want)
 		}
 	}
+	docsAreSame(t, what, s, s, true, impl.OK)
 }
 
 func newStoreIs(t *testing.T, names []string, code int) {
