@@ -264,6 +264,15 @@ func ownValue(v Value) Value {
 	return v
 }
 
+// ownList shares nothing with the list, if what own answers shares nothing with what it is given.
+func ownList[T any](list []T, own func(T) T) []T {
+	var all []T
+	for _, x := range list {
+		all = append(all, own(x))
+	}
+	return all
+}
+
 func DocOf(fields []Field) (Value, int) {
 	if len(fields) > MaxList {
 		return Value{}, ErrLong

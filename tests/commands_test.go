@@ -121,6 +121,9 @@ func wrongCommand(t *testing.T, what string, c impl.Command) {
 		}
 	}
 	noReplayOf(t, what, twoNames, pastsWith(c), []int{0}, impl.ErrBad)
+	notDone(t, what, impl.NewWorld(), c, impl.ErrBad)
+	noRunOf(t, what, []impl.Command{c}, impl.ErrBad)
+	wrongWorld(t, what, worldOf(fresh(), pastsWith(c)...))
 }
 
 func rightCommand(t *testing.T, what string, c impl.Command) {
@@ -138,6 +141,8 @@ func rightCommand(t *testing.T, what string, c impl.Command) {
 	} else if x, _, code := impl.Replay(twoNames, pastsWith(c), []int{0}); !impl.StoreOK(x) || x.Clock != 1 || code != impl.OK {
 		t.Errorf("Replay, %s: %s, %d", what, shownStore(x), code)
 	}
+	worldDoes(t, what, impl.NewWorld(), c)
+	runIsBy(t, what, []impl.Command{c}, 1)
 }
 
 func TestP12CommandKinds(t *testing.T) {

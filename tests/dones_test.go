@@ -140,6 +140,7 @@ func wrongDone(t *testing.T, what string, d impl.Done) {
 		wrongDones(t, what, list, impl.ErrBad)
 		noOrderOf(t, what, list, impl.ErrBad)
 		noReplayOf(t, what, twoNames, pastsOf(list), nil, impl.ErrBad)
+		wrongWorld(t, what, worldOf(fresh(), pastsOf(list)...))
 	}
 	for _, list := range [][]impl.Done{nil, {early}, {early, late}, {late}, manyDones(impl.MaxDone)} {
 		if got, code := impl.Certify(list, d); len(got) != 0 || code != impl.ErrBad {
@@ -161,6 +162,7 @@ func rightDone(t *testing.T, what string, d impl.Done) {
 	// Who asks nothing of flags takes it so.
 	orderIs(t, []impl.Done{d}, 0)
 	replayIs(t, what, twoNames, pastsOf([]impl.Done{d}), []int{0}, true, chains(1, "", ""))
+	serialIsHeld(t, what, worldOf(fresh(), impl.Past{Done: d}), true, impl.OK)
 	plain := d
 	plain.In, plain.Out = false, false
 	if got, code := impl.Certify(nil, d); !sameDones(got, []impl.Done{plain}) || code != impl.OK {

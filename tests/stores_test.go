@@ -78,6 +78,7 @@ func wrongStore(t *testing.T, what string, s impl.Store) {
 	}
 	docsAreSame(t, what, s, s, false, impl.ErrBad)
 	docsAreSame(t, what, s, fresh(), false, impl.ErrBad)
+	wrongWorld(t, what, worldOf(s))
 }
 
 // rightStore holds the calls to it that a store is right.
@@ -108,6 +109,7 @@ func rightStore(t *testing.T, what string, s impl.Store) {
 		}
 	}
 	docsAreSame(t, what, s, s, true, impl.OK)
+	rightWorld(t, what, worldOf(s))
 }
 
 func newStoreIs(t *testing.T, names []string, code int) {

@@ -10,8 +10,8 @@ import (
 )
 
 // named is coll under another name.
-func named(name, text string) impl.Coll {
-	c := coll(text)
+func named(name, text string, defs ...impl.Def) impl.Coll {
+	c := coll(text, defs...)
 	c.Name = name
 	return c
 }
