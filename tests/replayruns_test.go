@@ -39,9 +39,11 @@ func (x *recorder) do(t *testing.T, c impl.Command) impl.Reply {
 	switch {
 	case c.Kind >= impl.CoIndex:
 	case c.Kind == impl.CoBegin:
-	case c.Kind <= impl.CoAbort && at < 0:
-	case c.Kind <= impl.CoAbort:
-		if c.Kind == impl.CoCommit && r.Code == impl.OK {
+	case c.Kind == impl.CoAbort:
+		x.open[c.Session] = nil
+	case c.Kind == impl.CoCommit && at < 0:
+	case c.Kind == impl.CoCommit:
+		if r.Code == impl.OK {
 			x.past = append(x.past, impl.Past{Done: doneBy(t, before, before.Txns[at]), Steps: x.open[c.Session]})
 		}
 		x.open[c.Session] = nil

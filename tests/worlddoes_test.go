@@ -2,6 +2,7 @@ package tests
 
 import (
 	"fmt"
+	"math"
 	"slices"
 	"strings"
 	"testing"
@@ -35,8 +36,9 @@ func worldDoes(t *testing.T, what string, w impl.World, c impl.Command) (impl.Wo
 		t.Errorf("WorldDo, %s: %s, %d, not %s", what, shownReply(r), code, shownReply(want))
 	}
 	worldIs(t, "WorldDo, "+what, got, x.world())
-	if !impl.WorldOK(got) {
-		t.Errorf("WorldDo, %s: %s is not right", what, shownWorld(got))
+	// Open Steps of any kind may have been committed.
+	if right := worldRight(got); impl.WorldOK(got) != right || !right && c.Kind != impl.CoCommit {
+		t.Errorf("WorldDo, %s: %s is right: %v", what, shownWorld(got), !right)
 	}
 	return got, r
 }
@@ -193,25 +195,81 @@ func TestP14AbortsLeaveNone(t *testing.T) {
 	}
 }
 
-// Whatever a world says is open of a session that has nothing open stays there.
+// sevens has Steps of each session, but of those without one.
+func sevens(without ...int) map[int][]string {
+	open := map[int][]string{}
+	for session := range impl.MaxSessions {
+		if !slices.Contains(without, session) {
+			open[session] = []string{fmt.Sprint(session, " insert 7=7: ok 1"), "3 find *: busy"}
+		}
+	}
+	return open
+}
+
+// Whatever a world says is open of a session that has nothing open stays there, but an abort leaves none.
 func TestP14NothingIsOpen(t *testing.T) {
 	w := worldOf(withTxns(chains(6, "1 2=1", ""), "1 3 ?1"), threePasts()...)
-	for session := range impl.MaxSessions {
-		w = withSteps(w, session, steps(fmt.Sprint(session, " insert 7=7: ok 1"), "3 find *: busy"))
+	for session, lines := range sevens() {
+		w = withSteps(w, session, steps(lines...))
 	}
 	for _, session := range []int{0, 2, 3} {
-		for _, word := range []string{"commit", "abort"} {
-			x := worldTalk(t, w, fmt.Sprint(session, " ", word, ": state"))
-			worldIs(t, word, x, w)
-		}
-		x := worldTalk(t, w, fmt.Sprint(session, " begin: ok 0"))
-		keptIs(t, "begun", x, w.Past, map[int][]string{0: {"0 insert 7=7: ok 1", "3 find *: busy"}, 1: {"1 insert 7=7: ok 1", "3 find *: busy"}, 2: {"2 insert 7=7: ok 1", "3 find *: busy"}, 3: {"3 insert 7=7: ok 1", "3 find *: busy"}})
+		x := worldTalk(t, w, fmt.Sprint(session, " commit: state"))
+		worldIs(t, "committed", x, w)
+		x = worldTalk(t, w, fmt.Sprint(session, " abort: state"))
+		worldIs(t, "aborted", x, withSteps(w, session, nil))
+		keptIs(t, "aborted", worldTalk(t, x, fmt.Sprint(session, " abort: state")), w.Past, sevens(session))
+		keptIs(t, "begun behind it", worldTalk(t, x, fmt.Sprint(session, " begin: ok 0")), w.Past, sevens(session))
+		x = worldTalk(t, w, fmt.Sprint(session, " begin: ok 0"))
+		keptIs(t, "begun", x, w.Past, sevens())
+		keptIs(t, "begun and aborted", worldTalk(t, x, fmt.Sprint(session, " abort: ok 0")), w.Past, sevens(session))
 	}
 	x := worldTalk(t, w, "1 abort: ok 0")
-	keptIs(t, "aborted", x, w.Past, map[int][]string{0: {"0 insert 7=7: ok 1", "3 find *: busy"}, 2: {"2 insert 7=7: ok 1", "3 find *: busy"}, 3: {"3 insert 7=7: ok 1", "3 find *: busy"}})
+	keptIs(t, "aborted", x, w.Past, sevens(1))
+	x = worldTalk(t, x, "1 abort: state", "3 abort: state", "0 abort: state")
+	keptIs(t, "all but one aborted", x, w.Past, sevens(0, 1, 3))
 	x = worldTalk(t, w, "1 commit: ok 0")
-	if p := x.Past[3]; len(x.Past) != 4 || !samePast(p, past("3 7 ?1", "1 insert 7=7: ok 1", "3 find *: busy")) {
-		t.Errorf("committed: %s", shownWorld(x))
+	keptIs(t, "committed", x, append(slices.Clone(w.Past), past("3 7 ?1", sevens()[1]...)), sevens(1))
+}
+
+// oddSteps are such as no list of chapter 13 has.
+func oddSteps() []impl.Step {
+	list := []impl.Step{{}, {Command: impl.Command{Kind: 99}, Reply: impl.Reply{Code: 77}}, {Command: impl.Command{Kind: math.MinInt, Session: math.MaxInt}, Reply: impl.Reply{Code: math.MinInt, N: math.MaxInt}}}
+	for _, c := range append(oneOfEach(), command("1 find *"), impl.Command{Kind: impl.CoFind, Coll: "docs"}, impl.Command{Kind: impl.CoInsert, Coll: "9", Doc: thing(1, 1)}) {
+		list = append(list, impl.Step{Command: c, Reply: impl.Reply{Code: 20}})
+		if c.Kind < impl.CoInsert || c.Kind > impl.CoCount || !impl.CommandOK(c) {
+			list = append(list, impl.Step{Command: c})
+		}
+	}
+	return append(list, impl.Step{Command: command("4 find *")}, impl.Step{Command: command("1 find *"), Reply: impl.Reply{Code: -1}}, impl.Step{Command: command("1 find *"), Reply: impl.Reply{Docs: make([]impl.Value, 101)}},
+		impl.Step{Command: impl.Command{Kind: 5, Coll: strings.Repeat("n", impl.MaxText+1), Updates: make([]impl.Update, impl.MaxList+1)}, Reply: impl.Reply{Docs: make([]impl.Value, impl.MaxList+1)}})
+}
+
+// Of what is open nothing is asked but how much it is: the Past alone asks more.
+func TestP14OpenStepsOfAnyKind(t *testing.T) {
+	for i, step := range oddSteps() {
+		what := fmt.Sprint("the odd Step ", i)
+		wrongWorld(t, what+", past", worldOf(fresh(), impl.Past{Done: done("0 1"), Steps: []impl.Step{step}}))
+		wrongWorld(t, what+", past behind a right one", worldOf(fresh(), impl.Past{Done: done("0 1"), Steps: append(steps("0 find *: ok 0"), step)}))
+		rightWorld(t, what+", 100 times", withSteps(worldOf(fresh()), i%4, slices.Repeat([]impl.Step{step}, 100)))
+		wrongWorld(t, what+", 101 times", withSteps(worldOf(fresh()), i%4, slices.Repeat([]impl.Step{step}, 101)))
+		for session := range impl.MaxSessions {
+			rightWorld(t, what, withSteps(worldOf(fresh(), threePasts()...), session, []impl.Step{step}))
+			w := withSteps(worldOf(fresh()), session, append(steps("0 find *: ok 0"), step))
+			serialIsHeld(t, what, w, true, impl.OK)
+			for mine := range impl.MaxSessions {
+				worldTalk(t, w, fmt.Sprint(mine, " begin: ok 0"), fmt.Sprint(mine, " insert 1=1: ok 1"), fmt.Sprint(mine, " abort: ok 0"))
+			}
+		}
+	}
+}
+
+// Committed such a Step is past as it stood, and the world is right no more.
+func TestP14OddStepsCommitted(t *testing.T) {
+	for i, step := range oddSteps() {
+		w := withSteps(worldOf(withTxns(fresh(), "1 0 ?1")), 1, []impl.Step{step})
+		w = worldTalk(t, w, "1 find ?1: ok 0", "1 commit: ok 0")
+		keptIs(t, fmt.Sprint("the odd Step ", i), w, []impl.Past{{Done: done("0 1 ?1 ?1"), Steps: append([]impl.Step{step}, steps("1 find ?1: ok 0")...)}}, nil)
+		wrongWorld(t, fmt.Sprint("the odd Step ", i, ", committed"), w)
 	}
 }
 

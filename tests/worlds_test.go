@@ -174,7 +174,7 @@ func TestP14HowManyOpenSteps(t *testing.T) {
 	wrongWorld(t, "and one more", withSteps(w, 2, append(slices.Clone(w.Open[2].Steps), w.Open[0].Steps[0])))
 }
 
-// Of an Open past the Done is anything at all; its Steps are asked as those of the past are.
+// Of an Open past the Done is anything at all, and of its Steps only how many they are is asked.
 func TestP14OpenDonesDoNotCount(t *testing.T) {
 	for session := range impl.MaxSessions {
 		for _, d := range []impl.Done{done("3 3"), done("-1 10001"), done("0 1 =1 =1 in out"), {Reads: make([]impl.Read, impl.MaxList+1)}, {Snap: math.MinInt, At: math.MaxInt, Changes: make([]impl.Change, 61)}, done("0 1 ?1 =2")} {
@@ -188,7 +188,7 @@ func TestP14OpenDonesDoNotCount(t *testing.T) {
 			for _, p := range list[:1] {
 				w := worldOf(fresh())
 				w.Open[session] = p
-				worldIsRight(t, fmt.Sprint(what, ", open, of ", session), w, len(p.Steps) == 0)
+				worldIsRight(t, fmt.Sprint(what, ", open, of ", session), w, len(p.Steps) <= 100)
 			}
 		}
 	}
@@ -239,7 +239,7 @@ func stepsRight(list []impl.Step) bool {
 
 func worldRight(w impl.World) bool {
 	for _, p := range w.Open {
-		if !stepsRight(p.Steps) {
+		if len(p.Steps) > 100 {
 			return false
 		}
 	}
