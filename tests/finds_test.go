@@ -286,6 +286,7 @@ func wrongFinds(t *testing.T, what string, docs []impl.Value, code int) {
 				}
 			}
 		}
+		wrongAgrees(t, what, q, docs, code)
 	}
 }
 

@@ -83,6 +83,7 @@ func wrongDef(t *testing.T, what string, d impl.Def) {
 		}
 	}
 	wrongIndex(t, what, impl.Index{Def: d, Tree: impl.NewTree()})
+	agreeIs(t, what, impl.Query{Filter: everything()}, []impl.Value{doc}, []impl.Def{agreeDefs()[0], d}, impl.ErrBad)
 }
 
 func rightDef(t *testing.T, what string, d impl.Def) {
@@ -110,6 +111,7 @@ func rightDef(t *testing.T, what string, d impl.Def) {
 	if holds, code := impl.IndexHolds(one, []impl.Value{doc}); !holds || code != impl.OK {
 		t.Errorf("IndexHolds, %s: %v, %d", what, holds, code)
 	}
+	agreeIs(t, what, impl.Query{Filter: everything()}, []impl.Value{doc}, []impl.Def{agreeDefs()[0], d}, impl.OK)
 }
 
 func TestP7DefNames(t *testing.T) {

@@ -422,7 +422,7 @@ func TestP1AlikeArgumentsAlikeAnswers(t *testing.T) {
 		list = append(list, v)
 	}
 	all := func(v impl.Value) string {
-		return told(v) + toldPaths(v) + toldFilters(v) + toldKeys(v) + toldTrees(v) + toldIndexes(v) + toldPlans(v) + toldVersions(v) + toldCertificates(v) + toldTxns(v) + toldStores(v) + toldSerial(v) + toldWorlds(v)
+		return told(v) + toldPaths(v) + toldFilters(v) + toldKeys(v) + toldTrees(v) + toldIndexes(v) + toldPlans(v) + toldVersions(v) + toldCertificates(v) + toldTxns(v) + toldStores(v) + toldSerial(v) + toldWorlds(v) + toldAudit(v)
 	}
 	first := make([]string, len(list))
 	for i, v := range list {

@@ -50,6 +50,7 @@ func wrongQuery(t *testing.T, what string, q impl.Query) {
 			t.Errorf("PlanOf, %s: %v, %d", what, p, code)
 		}
 	}
+	wrongAgrees(t, what, q, []impl.Value{doc}, impl.ErrBad)
 }
 
 // rightQuery holds the calls to it that a query is right; it lets in all documents.
@@ -75,6 +76,7 @@ func rightQuery(t *testing.T, what string, q impl.Query) {
 	if _, code := impl.PlanOf(q, []impl.Index{x}); code != impl.OK {
 		t.Errorf("PlanOf, %s: %d", what, code)
 	}
+	agreeIs(t, what, q, []impl.Value{doc}, agreeDefs()[:3], impl.OK)
 }
 
 func TestP8QueryFilters(t *testing.T) {

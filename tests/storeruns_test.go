@@ -290,6 +290,10 @@ func (run *storeRun) holds(t *testing.T, s impl.Store) {
 			t.Errorf("DocsNow of %s: %v, not %v", name, docs, now.view(name))
 		}
 	}
+	// Whatever came, nobody is a pivot, and with nothing open only documents are kept.
+	rightAudit(t, "in a run", s)
+	settledIs(t, "in a run", s, true)
+	noPivotIs(t, "in a run", s, true)
 }
 
 func saw(t *testing.T, counts map[string]int, wanted map[string]int) {

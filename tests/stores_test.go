@@ -79,6 +79,7 @@ func wrongStore(t *testing.T, what string, s impl.Store) {
 	docsAreSame(t, what, s, s, false, impl.ErrBad)
 	docsAreSame(t, what, s, fresh(), false, impl.ErrBad)
 	wrongWorld(t, what, worldOf(s))
+	wrongAudit(t, what, s)
 }
 
 // rightStore holds the calls to it that a store is right.
@@ -110,6 +111,7 @@ func rightStore(t *testing.T, what string, s impl.Store) {
 	}
 	docsAreSame(t, what, s, s, true, impl.OK)
 	rightWorld(t, what, worldOf(s))
+	rightAudit(t, what, s)
 }
 
 func newStoreIs(t *testing.T, names []string, code int) {
